@@ -1,0 +1,1 @@
+"""Towers that watch one another and act one at a time."""

@@ -1,0 +1,45 @@
+"""What towers do that act alone, one at a time.
+
+A state is a number whose bit j is tower j's flag; a rule is a number whose
+bit s is the flag that the rule puts in state s.
+"""
+
+REFUSED = -22
+MOST_TOWERS = 4
+
+
+def power_of_two(exponent):
+    power = 1
+    for step in range(exponent):
+        power = power * 2
+    return power
+
+
+def bit(number, place):
+    return (number >> place) & 1
+
+
+def is_state(n, s):
+    return s < power_of_two(n)
+
+
+def rules_fit(n, t):
+    """Whether n towers may be and t has just one right rule for each."""
+    # n is looked at first: the powers below must not be reckoned for a vast n.
+    if n < 1 or n > MOST_TOWERS or len(t) != n:
+        return False
+    states = power_of_two(n)
+    too_great = power_of_two(states)
+    return all([rule < too_great for rule in t])
+
+
+def would_change(s, t, j):
+    return bit(t[j], s) != bit(s, j)
+
+
+def moves(n, s, t):
+    """How many flags would change in state s, then these towers, rising."""
+    if not rules_fit(n, t) or not is_state(n, s):
+        return [REFUSED]
+    towers = [j for j in range(n) if would_change(s, t, j)]
+    return [len(towers)] + towers
