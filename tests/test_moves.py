@@ -4,21 +4,9 @@ import inspect
 import unittest
 
 from towerchanges.alone import moves
-
-GREATEST_NUMBER = 4294967295
-GREATEST_RULE = {1: 3, 2: 15, 3: 255, 4: 65535}
-
-# Rules by which a tower's flag stays as it is, or always changes.
-STAY = {1: [2], 2: [10, 12], 3: [170, 204, 240], 4: [43690, 52428, 61680, 65280]}
-TURN = {1: [1], 2: [5, 3], 3: [85, 51, 15], 4: [21845, 13107, 3855, 255]}
-
-
-def after_acting_alone(j, s, t):
-    """The state behind an act of tower j alone, in lists of flags."""
-    flags = [s // 2 ** k % 2 == 1 for k in range(len(t))]
-    ups = [state for state in range(2 ** len(t)) if t[j] // 2 ** state % 2 == 1]
-    flags[j] = s in ups
-    return sum(2 ** k for k, up in enumerate(flags) if up)
+from tests.helpers import (
+    GREATEST_NUMBER, GREATEST_RULE, STAY, TURN, GuardedList, after_acting_alone, many_rules,
+)
 
 
 def expected_moves(n, s, t):
@@ -84,31 +72,11 @@ class Ordinary(unittest.TestCase):
 
 
 class AgainstTheDefinition(unittest.TestCase):
-    def check(self, n, s, t):
-        self.assertEqual(moves(n, s, t), expected_moves(n, s, t), (n, s, t))
-
-    def test_all_of_one_tower(self):
-        for rule in range(4):
-            for s in range(2):
-                self.check(1, s, [rule])
-
-    def test_all_of_two_towers(self):
-        for first in range(16):
-            for second in range(16):
-                for s in range(4):
-                    self.check(2, s, [first, second])
-
-    def test_many_of_three_towers(self):
-        for k in range(256):
-            t = [k, k * 37 % 256, k * 101 % 256]
-            for s in range(8):
-                self.check(3, s, t)
-
-    def test_many_of_four_towers(self):
-        for k in range(0, 65536, 251):
-            t = [k, k * 7919 % 65536, k * 31337 % 65536, k * 54321 % 65536]
-            for s in range(16):
-                self.check(4, s, t)
+    def test_many_rules_and_every_state(self):
+        for n in range(1, 5):
+            for t in many_rules(n):
+                for s in range(2 ** n):
+                    self.assertEqual(moves(n, s, t), expected_moves(n, s, t), (n, s, t))
 
 
 class Edges(unittest.TestCase):
@@ -174,16 +142,6 @@ class Refusals(unittest.TestCase):
         self.refused(1, 2, [4])
         self.refused(2, 4, [16])
         self.refused(3, 8, [256] * 4)
-
-
-class GuardedList(list):
-    """A list that fails as soon as something would change it."""
-
-    def forbidden(self, *args, **kwargs):
-        raise AssertionError("the list that was handed in is being changed")
-
-    __setitem__ = __delitem__ = __iadd__ = __imul__ = forbidden
-    append = clear = extend = insert = pop = remove = reverse = sort = forbidden
 
 
 CALLS = [

@@ -7,7 +7,7 @@ import os
 import unittest
 
 import towerchanges
-from towerchanges.alone import moves
+from towerchanges.alone import moves, reach
 
 FOLDER = os.path.dirname(os.path.abspath(towerchanges.__file__))
 
@@ -38,6 +38,8 @@ class Package(unittest.TestCase):
         with contextlib.redirect_stdout(out), contextlib.redirect_stderr(err):
             moves(2, 2, [15, 0])
             moves(0, 0, [])
+            reach(2, 2, [15, 0])
+            reach(0, 0, [])
         self.assertEqual((out.getvalue(), err.getvalue()), ("", ""))
 
 

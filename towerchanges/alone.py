@@ -43,3 +43,29 @@ def moves(n, s, t):
         return [REFUSED]
     towers = [j for j in range(n) if would_change(s, t, j)]
     return [len(towers)] + towers
+
+
+def behind_one_change(n, s, t):
+    """The states to which one change leads from s."""
+    return [s ^ power_of_two(j) for j in range(n) if would_change(s, t, j)]
+
+
+def come_to(n, s, t):
+    """The states that are come to from s, rising."""
+    found = {s: True}
+    waiting = [s]
+    while len(waiting) > 0:
+        state = waiting.pop()
+        for other in behind_one_change(n, state, t):
+            if other not in found:
+                found[other] = True
+                waiting.append(other)
+    return sorted(found.keys())
+
+
+def reach(n, s, t):
+    """How many states are come to from s, then these, rising."""
+    if not rules_fit(n, t) or not is_state(n, s):
+        return [REFUSED]
+    states = come_to(n, s, t)
+    return [len(states)] + states
