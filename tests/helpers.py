@@ -54,6 +54,19 @@ def all_states_in_a_row(n):
     return row
 
 
+def renumbered_state(s, names):
+    """State s where tower j is called names[j]."""
+    return sum(2 ** names[j] for j in range(len(names)) if s // 2 ** j % 2 == 1)
+
+
+def renumbered_rules(t, names):
+    rules = [0] * len(t)
+    for j, rule in enumerate(t):
+        ups = [s for s in range(2 ** len(t)) if rule // 2 ** s % 2 == 1]
+        rules[names[j]] = sum(2 ** renumbered_state(s, names) for s in ups)
+    return rules
+
+
 def rules_with_few_changes(n):
     """Lists of rules by which in most states only few flags would change."""
     last = 2 ** 2 ** n

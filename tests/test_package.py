@@ -7,7 +7,7 @@ import os
 import unittest
 
 import towerchanges
-from towerchanges.alone import moves, reach
+from towerchanges.alone import far, moves, reach
 
 FOLDER = os.path.dirname(os.path.abspath(towerchanges.__file__))
 
@@ -40,6 +40,9 @@ class Package(unittest.TestCase):
             moves(0, 0, [])
             reach(2, 2, [15, 0])
             reach(0, 0, [])
+            far(2, 2, 1, [15, 0])
+            far(2, 1, 2, [15, 0])
+            far(0, 0, 0, [])
         self.assertEqual((out.getvalue(), err.getvalue()), ("", ""))
 
 

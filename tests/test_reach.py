@@ -7,7 +7,7 @@ import unittest
 from towerchanges.alone import reach
 from tests.helpers import (
     GREATEST_NUMBER, GREATEST_RULE, STAY, TURN, GuardedList, after_acting_alone,
-    all_states_in_a_row, many_rules, rules_along, rules_for,
+    all_states_in_a_row, many_rules, renumbered_rules, renumbered_state, rules_along, rules_for,
 )
 
 
@@ -44,19 +44,6 @@ def gone_through(n, s, t, towers, place):
                 found.append(other)
                 waiting.append(other)
     return [len(found)] + sorted(found)
-
-
-def renumbered_state(s, names):
-    """State s where tower j is called names[j]."""
-    return sum(2 ** names[j] for j in range(len(names)) if s // 2 ** j % 2 == 1)
-
-
-def renumbered_rules(t, names):
-    rules = [0] * len(t)
-    for j, rule in enumerate(t):
-        ups = [s for s in range(2 ** len(t)) if rule // 2 ** s % 2 == 1]
-        rules[names[j]] = sum(2 ** renumbered_state(s, names) for s in ups)
-    return rules
 
 
 class Ordinary(unittest.TestCase):

@@ -5,6 +5,7 @@ bit s is the flag that the rule puts in state s.
 """
 
 REFUSED = -22
+NOT_COME_TO = -33
 MOST_TOWERS = 4
 
 
@@ -50,22 +51,35 @@ def behind_one_change(n, s, t):
     return [s ^ power_of_two(j) for j in range(n) if would_change(s, t, j)]
 
 
-def come_to(n, s, t):
-    """The states that are come to from s, rising."""
-    found = {s: True}
-    waiting = [s]
-    while len(waiting) > 0:
-        state = waiting.pop()
-        for other in behind_one_change(n, state, t):
-            if other not in found:
-                found[other] = True
-                waiting.append(other)
-    return sorted(found.keys())
+def fewest_changes(n, s, t):
+    """Of each state that is come to from s: how few changes lead there."""
+    fewest = {s: 0}
+    latest = [s]
+    # Round by round, so that a state is first met by the fewest changes.
+    while len(latest) > 0:
+        further = []
+        for state in latest:
+            for other in behind_one_change(n, state, t):
+                if other not in fewest:
+                    fewest[other] = fewest[state] + 1
+                    further.append(other)
+        latest = further
+    return fewest
 
 
 def reach(n, s, t):
     """How many states are come to from s, then these, rising."""
     if not rules_fit(n, t) or not is_state(n, s):
         return [REFUSED]
-    states = come_to(n, s, t)
+    states = sorted(fewest_changes(n, s, t).keys())
     return [len(states)] + states
+
+
+def far(n, s, x, t):
+    """By how few changes one comes from s to x."""
+    if not rules_fit(n, t) or not is_state(n, s) or not is_state(n, x):
+        return [REFUSED]
+    fewest = fewest_changes(n, s, t)
+    if x not in fewest:
+        return [NOT_COME_TO]
+    return [fewest[x]]
