@@ -26,6 +26,21 @@ def after_acting_alone(j, s, t):
     return sum(2 ** k for k, up in enumerate(flags) if up)
 
 
+def who_comes_where(n, t):
+    """A table of all states: whether the second is come to from the first.
+
+    Ways are joined at a state between them, for every such state in turn; no
+    way is followed change by change.
+    """
+    states = range(2 ** n)
+    table = [[a == b or b in [after_acting_alone(j, a, t) for j in range(n)] for b in states] for a in states]
+    for between in states:
+        for a in states:
+            if table[a][between]:
+                table[a] = [one or two for one, two in zip(table[a], table[between])]
+    return table
+
+
 def rules_for(n, changing):
     """Rules by which in each state just those towers change that `changing`
     gives for it, and none where it gives nothing."""

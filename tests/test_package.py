@@ -7,7 +7,7 @@ import os
 import unittest
 
 import towerchanges
-from towerchanges.alone import far, moves, reach
+from towerchanges.alone import far, moves, reach, traps
 
 FOLDER = os.path.dirname(os.path.abspath(towerchanges.__file__))
 
@@ -43,6 +43,8 @@ class Package(unittest.TestCase):
             far(2, 2, 1, [15, 0])
             far(2, 1, 2, [15, 0])
             far(0, 0, 0, [])
+            traps(2, [12, 5])
+            traps(0, [])
         self.assertEqual((out.getvalue(), err.getvalue()), ("", ""))
 
 

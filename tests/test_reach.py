@@ -8,22 +8,8 @@ from towerchanges.alone import reach
 from tests.helpers import (
     GREATEST_NUMBER, GREATEST_RULE, STAY, TURN, GuardedList, after_acting_alone,
     all_states_in_a_row, many_rules, renumbered_rules, renumbered_state, rules_along, rules_for,
+    who_comes_where,
 )
-
-
-def who_comes_where(n, t):
-    """A table of all states: whether the second is come to from the first.
-
-    Ways are joined at a state between them, for every such state in turn; no
-    way is followed change by change.
-    """
-    states = range(2 ** n)
-    table = [[a == b or b in [after_acting_alone(j, a, t) for j in range(n)] for b in states] for a in states]
-    for between in states:
-        for a in states:
-            if table[a][between]:
-                table[a] = [one or two for one, two in zip(table[a], table[between])]
-    return table
 
 
 def expected_reach(table, s):

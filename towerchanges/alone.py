@@ -67,11 +67,16 @@ def fewest_changes(n, s, t):
     return fewest
 
 
+def come_to(n, s, t):
+    """The states that are come to from s, rising."""
+    return sorted(fewest_changes(n, s, t).keys())
+
+
 def reach(n, s, t):
     """How many states are come to from s, then these, rising."""
     if not rules_fit(n, t) or not is_state(n, s):
         return [REFUSED]
-    states = sorted(fewest_changes(n, s, t).keys())
+    states = come_to(n, s, t)
     return [len(states)] + states
 
 
@@ -83,3 +88,17 @@ def far(n, s, x, t):
     if x not in fewest:
         return [NOT_COME_TO]
     return [fewest[x]]
+
+
+def traps(n, t):
+    """How many traps there are, then of each its least state and how many it has."""
+    if not rules_fit(n, t):
+        return [REFUSED]
+    reached = [come_to(n, s, t) for s in range(power_of_two(n))]
+    found = []
+    for s, states in enumerate(reached):
+        # If all that is come to leads back it's a trap; its least state alone
+        # stands for it, so that it's counted once.
+        if s == states[0] and all([s in reached[x] for x in states]):
+            found = found + [s, len(states)]
+    return [len(found) // 2] + found
