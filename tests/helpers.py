@@ -51,14 +51,21 @@ def rules_for(n, changing):
     return rules
 
 
+def changes_along(states):
+    """Of each state of the list but the last the tower whose change leads to
+    the state behind it, alone in a list."""
+    changing = {}
+    for s, behind in zip(states, states[1:]):
+        j = (s ^ behind).bit_length() - 1
+        assert s ^ behind == 2 ** j, (s, behind)
+        changing[s] = [j]
+    return changing
+
+
 def rules_along(n, states):
     """Rules by which each state of the list changes to the one behind it alone,
     and every other state is at rest."""
-    changing = {}
-    for s, behind in zip(states, states[1:]):
-        changing[s] = [j for j in range(n) if s // 2 ** j % 2 != behind // 2 ** j % 2]
-        assert len(changing[s]) == 1, (s, behind)
-    return rules_for(n, changing)
+    return rules_for(n, changes_along(states))
 
 
 def all_states_in_a_row(n):

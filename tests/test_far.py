@@ -7,7 +7,8 @@ import unittest
 from towerchanges.alone import far, reach
 from tests.helpers import (
     GREATEST_NUMBER, GREATEST_RULE, STAY, TURN, GuardedList, after_acting_alone,
-    all_states_in_a_row, many_rules, renumbered_rules, renumbered_state, rules_along, rules_for,
+    all_states_in_a_row, changes_along, many_rules, renumbered_rules, renumbered_state, rules_along,
+    rules_for,
 )
 
 NO_WAY = 1000
@@ -128,9 +129,7 @@ class MoreThanOneWay(unittest.TestCase):
     def test_of_three_changes_or_fifteen(self):
         # The way through all states, with one change from 3 to 11 besides.
         row = all_states_in_a_row(4)
-        changing = {}
-        for s, behind in zip(row, row[1:]):
-            changing[s] = [j for j in range(4) if s ^ behind == 2 ** j]
+        changing = changes_along(row)
         self.assertEqual(changing[3], [0])
         changing[3] = [0, 3]
         self.check(4, 0, 11, changing, [3])

@@ -7,7 +7,7 @@ import os
 import unittest
 
 import towerchanges
-from towerchanges.alone import far, moves, reach, traps
+from towerchanges.alone import far, may, moves, reach, traps
 
 FOLDER = os.path.dirname(os.path.abspath(towerchanges.__file__))
 
@@ -45,6 +45,8 @@ class Package(unittest.TestCase):
             far(0, 0, 0, [])
             traps(2, [12, 5])
             traps(0, [])
+            may(2, 2, [15, 0])
+            may(0, 0, [])
         self.assertEqual((out.getvalue(), err.getvalue()), ("", ""))
 
 

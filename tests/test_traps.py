@@ -7,8 +7,8 @@ import unittest
 from towerchanges.alone import moves, reach, traps
 from tests.helpers import (
     GREATEST_NUMBER, GREATEST_RULE, STAY, TURN, GuardedList, after_acting_alone,
-    all_states_in_a_row, many_rules, renumbered_rules, renumbered_state, rules_along, rules_for,
-    who_comes_where,
+    all_states_in_a_row, changes_along, many_rules, renumbered_rules, renumbered_state, rules_along,
+    rules_for, who_comes_where,
 )
 
 
@@ -54,12 +54,8 @@ def in_twos(answer):
 
 def there_and_back(states):
     """Changes that lead along the states, and back along them."""
-    changing = {s: [] for s in states}
-    for s, behind in zip(states, states[1:]):
-        j = (s ^ behind).bit_length() - 1
-        changing[s].append(j)
-        changing[behind].append(j)
-    return changing
+    along, back = changes_along(states), changes_along(states[::-1])
+    return {s: along.get(s, []) + back.get(s, []) for s in states}
 
 
 class Ordinary(unittest.TestCase):
@@ -202,15 +198,14 @@ class Edges(unittest.TestCase):
                 self.assertEqual(traps(n, STAY[n]), answer)
 
     def test_a_trap_of_any_number_of_states(self):
-        # The first of the row go there and back, the others lead to them.
+        # The last of the row go there and back, the others lead to them.
         for n in range(1, 5):
             for row in (all_states_in_a_row(n), all_states_in_a_row(n)[::-1]):
                 for count in range(1, 2 ** n + 1):
-                    changing = there_and_back(row[:count])
-                    for ahead, s in zip(row[count - 1:], row[count:]):
-                        changing[s] = [(s ^ ahead).bit_length() - 1]
+                    changing = changes_along(row)
+                    changing.update(there_and_back(row[-count:]))
                     with self.subTest(n=n, row=row, count=count):
-                        self.assertEqual(traps(n, rules_for(n, changing)), [1, min(row[:count]), count])
+                        self.assertEqual(traps(n, rules_for(n, changing)), [1, min(row[-count:]), count])
 
     def test_a_trap_of_any_number_of_states_and_others_at_rest(self):
         for n in range(1, 5):

@@ -102,3 +102,22 @@ def traps(n, t):
         if s == states[0] and all([s in reached[x] for x in states]):
             found = found + [s, len(states)]
     return [len(found) // 2] + found
+
+
+def at_rest(n, s, t):
+    return len(behind_one_change(n, s, t)) == 0
+
+
+def rest_is_come_to(n, s, t):
+    return any([at_rest(n, x, t) for x in come_to(n, s, t)])
+
+
+def may(n, s, t):
+    """2 if rest is come to from each state that is come to from s, 1 if from s, else 0."""
+    if not rules_fit(n, t) or not is_state(n, s):
+        return [REFUSED]
+    if all([rest_is_come_to(n, x, t) for x in come_to(n, s, t)]):
+        return [2]
+    if rest_is_come_to(n, s, t):
+        return [1]
+    return [0]
